@@ -7,12 +7,13 @@ var checkTable [16]uint16
 
 func init() {
 	for half := range checkTable {
-		checkTable[half] = fourSteps(uint16(half))
+		checkTable[half] = steps(uint16(half), 4)
 	}
 }
 
-func fourSteps(c uint16) uint16 {
-	for range 4 {
+// steps does that many of the eight steps that a byte of the check takes.
+func steps(c uint16, many int) uint16 {
+	for range many {
 		odd := c%2 == 1
 		c /= 2
 		if odd {
@@ -22,7 +23,18 @@ func fourSteps(c uint16) uint16 {
 	return c
 }
 
+// check is what Frame, Unframe and Feed hold an item's bytes against; it
+// hangs on no variable of the package.
 func check(b []byte) uint16 {
+	c := uint16(65535)
+	for _, x := range b {
+		c = steps(c^uint16(x), 8)
+	}
+	return c
+}
+
+// TableCheck is the check of bytes too, by the table instead of by steps.
+func TableCheck(b []byte) uint16 {
 	c := uint16(65535)
 	for _, x := range b {
 		c ^= uint16(x)

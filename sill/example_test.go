@@ -19,3 +19,20 @@ func Example() {
 	// {1 a 3 7 1} 26 0
 	// {0  0 0 0} 0 0
 }
+
+func ExampleFlow() {
+	f, e := sill.New(api.Config{Size: 10, Slide: 5, Late: 2, Keys: 2})
+	fmt.Println(e)
+	f.Open(0)
+	for _, time := range []int64{3, 12, 9} {
+		b, _ := sill.Frame(api.Item{Kind: api.Event, Key: "a", Time: time, Value: 7, Tag: 1})
+		f.Feed(0, b[:4])
+		f.Feed(0, b[4:])
+	}
+	fmt.Println(f.Line())
+	fmt.Printf("%+v\n", f.Counts())
+	// Output:
+	// 0
+	// 10 true
+	// {Taken:2 Late:1 Range:0 Full:0 Marks:0 Broken:0}
+}

@@ -1,7 +1,11 @@
 // Package sill: sliding windows over events: see DOC.md.
 package sill
 
-import "sill/api"
+import (
+	"sync"
+
+	"sill/api"
+)
 
 // Frame makes an item's bytes (P3).
 func Frame(i api.Item) ([]byte, api.Errno) {
@@ -35,26 +39,81 @@ func Unframe(b []byte) (api.Item, int, api.Errno) {
 	return i, end, api.OK
 }
 
-// Flow is windows over the events of some sources.
-type Flow struct{}
+// Flow is windows over the events of some sources. Several goroutines may use
+// it at a time.
+type Flow struct {
+	lock    sync.Mutex // held by each call, for all that stands below
+	config  api.Config
+	sources [api.MaxSources]sender
+	line    moment
+	keys    []goingKey
+	counts  counts
+}
 
 // New makes a flow (P4).
-func New(c api.Config) (*Flow, api.Errno) { return nil, api.OK }
+func New(c api.Config) (*Flow, api.Errno) {
+	if !isConfig(c) {
+		return nil, api.ErrConfig
+	}
+	return &Flow{config: c}, api.OK
+}
 
 // Open opens a source (P5).
-func (f *Flow) Open(source int) api.Errno { return api.OK }
+func (f *Flow) Open(source int) api.Errno {
+	f.lock.Lock()
+	defer f.lock.Unlock()
+	if !isSource(source) {
+		return api.ErrSource
+	}
+	s := &f.sources[source]
+	if s.open {
+		return api.ErrOpen
+	}
+	// The line stays: a source that nothing was read of has no reach (P7).
+	s.open = true
+	return api.OK
+}
 
 // Feed gives a flow bytes from a source (P5, P6).
-func (f *Flow) Feed(source int, b []byte) api.Errno { return api.OK }
+func (f *Flow) Feed(source int, b []byte) api.Errno {
+	f.lock.Lock()
+	defer f.lock.Unlock()
+	s, e := f.openSource(source)
+	if e != api.OK {
+		return e
+	}
+	f.read(s, b)
+	return api.OK
+}
 
 // Close closes a source (P5).
-func (f *Flow) Close(source int) api.Errno { return api.OK }
+func (f *Flow) Close(source int) api.Errno {
+	f.lock.Lock()
+	defer f.lock.Unlock()
+	s, e := f.openSource(source)
+	if e != api.OK {
+		return e
+	}
+	*s = sender{}
+	f.moveLine()
+	return api.OK
+}
 
 // Line tells the line behind which all is told; false: there is none (P7).
-func (f *Flow) Line() (int64, bool) { return 0, false }
+func (f *Flow) Line() (int64, bool) {
+	f.lock.Lock()
+	defer f.lock.Unlock()
+	return f.line.time, f.line.is
+}
 
 // Take tells the windows that have been finished since it was asked last (P8).
 func (f *Flow) Take() []api.Window { return nil }
 
 // Counts tells what has come (P6).
-func (f *Flow) Counts() api.Counts { return api.Counts{} }
+func (f *Flow) Counts() api.Counts {
+	// Not without the lock: six numbers, read one by one while a Feed runs, may
+	// be those of no moment between two calls (P2).
+	f.lock.Lock()
+	defer f.lock.Unlock()
+	return f.counts.told()
+}
