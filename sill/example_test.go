@@ -31,8 +31,15 @@ func ExampleFlow() {
 	}
 	fmt.Println(f.Line())
 	fmt.Printf("%+v\n", f.Counts())
+	for _, w := range f.Take() {
+		fmt.Printf("%+v\n", w)
+	}
+	fmt.Println(len(f.Take()))
 	// Output:
 	// 0
 	// 10 true
 	// {Taken:2 Late:1 Range:0 Full:0 Marks:0 Broken:0}
+	// {Key:a Start:-5 Count:1 Sum:7 Min:7 Max:7 Tags:[1]}
+	// {Key:a Start:0 Count:1 Sum:7 Min:7 Max:7 Tags:[1]}
+	// 0
 }

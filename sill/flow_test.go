@@ -564,6 +564,7 @@ func TestDocumentsExample(t *testing.T) {
 	f := flowOf(t, api.Config{Size: 10, Slide: 5, Late: 2, Keys: 2}, 0)
 	feed(t, f, 0, event("a", 3, 7, 1), event("a", 12, -2, 1))
 	wantLine(t, f, 10)
+	wantWindows(t, f, window("a", -5, 1, 7, 7, 7, 1), window("a", 0, 1, 7, 7, 7, 1))
 	feed(t, f, 0, event("a", 9, 1, 1))
 	wantCounts(t, f, api.Counts{Taken: 2, Late: 1})
 	feed(t, f, 0, event("b", 10, 1, 1))
@@ -572,8 +573,12 @@ func TestDocumentsExample(t *testing.T) {
 	wantCounts(t, f, api.Counts{Taken: 3, Late: 1, Full: 1, Marks: 1})
 	feed(t, f, 0, mark(22))
 	wantLine(t, f, 20)
+	wantWindows(t, f,
+		window("a", 5, 1, -2, -2, -2, 1), window("b", 5, 1, 1, 1, 1, 1),
+		window("a", 10, 1, -2, -2, -2, 1), window("b", 10, 1, 1, 1, 1, 1))
 	feed(t, f, 0, event("c", 21, 1, 1), event("d", 21, 1, 1))
 	wantCounts(t, f, api.Counts{Taken: 5, Late: 1, Full: 1, Marks: 2})
+	wantWindows(t, f)
 }
 
 // P2: calls by several goroutines come one after the other: all that was fed is

@@ -20,7 +20,7 @@ func (f *Flow) moveLine() {
 		return
 	}
 	f.line.raise(least.time - f.config.Late)
-	f.dropFinished()
+	f.endRuns()
 }
 
 // leastLatest need not ask which sources are open and not broken: all others

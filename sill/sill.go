@@ -46,7 +46,8 @@ type Flow struct {
 	config  api.Config
 	sources [api.MaxSources]sender
 	line    moment
-	keys    []goingKey
+	going   []*run // one for each key that is going on
+	ended   []*run // of keys that were, with windows that were not taken yet
 	counts  counts
 }
 
@@ -107,7 +108,11 @@ func (f *Flow) Line() (int64, bool) {
 }
 
 // Take tells the windows that have been finished since it was asked last (P8).
-func (f *Flow) Take() []api.Window { return nil }
+func (f *Flow) Take() []api.Window {
+	f.lock.Lock()
+	defer f.lock.Unlock()
+	return f.takeFinished()
+}
 
 // Counts tells what has come (P6).
 func (f *Flow) Counts() api.Counts {

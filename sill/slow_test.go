@@ -4,9 +4,12 @@ import (
 	"bytes"
 	"math"
 	"math/rand"
+	"slices"
+	"strings"
 	"testing"
 
 	"sill/api"
+	"sill/sill"
 )
 
 // slowFlow is a flow by the document's words: it keeps all that ever came, and
@@ -17,6 +20,12 @@ type slowFlow struct {
 	taken   []api.Item
 	lines   []int64 // the least reaches, one for each time that there was one
 	counts  api.Counts
+	told    map[slowName]bool
+}
+
+type slowName struct {
+	start int64
+	key   string
 }
 
 type slowSource struct {
@@ -26,7 +35,7 @@ type slowSource struct {
 }
 
 func newSlow(c api.Config) *slowFlow {
-	return &slowFlow{config: c, sources: map[int]*slowSource{}}
+	return &slowFlow{config: c, sources: map[int]*slowSource{}, told: map[slowName]bool{}}
 }
 
 func (f *slowFlow) errnoOf(source int, open bool) api.Errno {
@@ -167,6 +176,46 @@ func (f *slowFlow) goingOn() map[string]bool {
 	return going
 }
 
+// take puts each event into each of its windows that is finished and was never
+// told.
+func (f *slowFlow) take() []api.Window {
+	line, is := f.line()
+	found := map[slowName][]api.Item{}
+	for _, i := range f.taken {
+		for start := i.Time; start > i.Time-f.config.Size; start-- {
+			name := slowName{start, i.Key}
+			if is && start%f.config.Slide == 0 && start+f.config.Size <= line && !f.told[name] {
+				found[name] = append(found[name], i)
+			}
+		}
+	}
+	var out []api.Window
+	for name, items := range found {
+		f.told[name] = true
+		out = append(out, slowWindow(name, items))
+	}
+	slices.SortFunc(out, func(a, b api.Window) int {
+		if a.Start != b.Start {
+			return int(max(-1, min(1, a.Start-b.Start)))
+		}
+		return strings.Compare(a.Key, b.Key)
+	})
+	return out
+}
+
+func slowWindow(name slowName, items []api.Item) api.Window {
+	w := window(name.key, name.start, len(items), 0, math.MaxInt64, math.MinInt64)
+	for _, i := range items {
+		w.Sum += i.Value
+		w.Min, w.Max = min(w.Min, i.Value), max(w.Max, i.Value)
+		if !slices.Contains(w.Tags, i.Tag) {
+			w.Tags = append(w.Tags, i.Tag)
+		}
+	}
+	slices.Sort(w.Tags)
+	return w
+}
+
 // chance makes items that meet each other: few keys, times that go up slowly,
 // and now and then one of the edges (in a thousand, as often as is said).
 type chance struct {
@@ -191,22 +240,36 @@ func (r *chance) bytes() []byte {
 	case n < 16:
 		return bytesOf(mark(r.time(10)))
 	}
-	return bytesOf(event(string(rune('a'+r.Intn(5))), r.time(60), r.Int63(), uint32(r.Intn(3))))
+	value := int64(r.Uint64())
+	if r.Intn(2) == 0 {
+		value = int64(r.Intn(9) - 4)
+	}
+	return bytesOf(event(string(rune('a'+r.Intn(5))), r.time(60), value, uint32(r.Intn(5))))
 }
 
-// P4 to P7: the program does as the slow flow does, whatever is done to it.
+// P4 to P8: the program does as the slow flow does, whatever is done to it.
 func TestAsTheSlowFlow(t *testing.T) {
 	rounds := 1500
 	if testing.Short() {
 		rounds = 100
 	}
-	sum := api.Counts{}
+	sum, windows, most := api.Counts{}, 0, 0
+	wantTake := func(f *sill.Flow, slow *slowFlow) {
+		t.Helper()
+		want := slow.take()
+		wantWindows(t, f, want...)
+		windows += len(want)
+		for _, w := range want {
+			most = max(most, w.Count)
+		}
+	}
 	for seed := range rounds {
 		r := &chance{Rand: rand.New(rand.NewSource(int64(seed)))}
 		size := 1 + r.Int63n(12)
 		c := api.Config{Size: size, Slide: 1 + r.Int63n(size), Late: r.Int63n(6), Keys: 1 + r.Intn(3)}
 		f, slow := newFlow(t, c), newSlow(c)
 		r.now = r.Int63n(50) - 60
+		takes := 1 + r.Intn(40)
 		var unsent [8][]byte
 		for range 100 {
 			source := r.Intn(3)
@@ -239,11 +302,18 @@ func TestAsTheSlowFlow(t *testing.T) {
 			} else {
 				wantNoLine(t, f)
 			}
+			if r.Intn(takes) == 0 {
+				wantTake(f, slow)
+			}
 			if t.Failed() {
 				t.Fatalf("seed %d, %+v", seed, c)
 			}
 		}
+		wantTake(f, slow)
 		sum = added(sum, f.Counts())
+	}
+	if windows < 10*rounds || most < 5 {
+		t.Errorf("of all rounds came %d windows, of at most %d events", windows, most)
 	}
 	// so that the chances above do not come to nothing unseen
 	for _, n := range []int{sum.Taken, sum.Late, sum.Range, sum.Full, sum.Marks, sum.Broken} {
@@ -275,5 +345,6 @@ func FuzzFeed(f *testing.F) {
 		if got, gotIs := flow.Line(); got != line || gotIs != is {
 			t.Errorf("Line = %d, %v, want %d, %v", got, gotIs, line, is)
 		}
+		wantWindows(t, flow, slow.take()...)
 	})
 }
